@@ -7,28 +7,8 @@ import (
 	"testing"
 
 	"linchpin/api"
+	"linchpin/sample"
 )
-
-// knot: ten gates of every kind but Always, one register; 7 and 8 hang on each other.
-func knot() api.Net {
-	return api.Net{
-		Ins: 1,
-		Gates: []api.Gate{
-			{Kind: api.In},
-			{Kind: api.Reg},
-			{Kind: api.Not, Args: []int{1}},
-			{Kind: api.Not, Args: []int{0}},
-			{Kind: api.All, Args: []int{0, 2}},
-			{Kind: api.All, Args: []int{3, 1}},
-			{Kind: api.Any, Args: []int{4, 5}},
-			{Kind: api.Any, Args: []int{6, 8}},
-			{Kind: api.All, Args: []int{7, 9}},
-			{Kind: api.Never},
-		},
-		Regs: []api.Store{{Next: 6}},
-		Outs: []int{7, 1},
-	}
-}
 
 // change of a net: what it is, and what it does.
 type change struct {
@@ -137,7 +117,7 @@ func mustRefuse(t *testing.T, name string, n api.Net, want api.Errno) {
 
 func TestB1WhatMayBe(t *testing.T) {
 	for _, c := range allowed() {
-		n := knot()
+		n := sample.Knot()
 		c.do(&n)
 		if e := Check(n); e != api.OK {
 			t.Errorf("%s: %d", c.name, e)
@@ -153,12 +133,12 @@ func TestB1FirstOfAllFaults(t *testing.T) {
 	}{{api.ErrMany, tooMany()}, {api.ErrRange, outOfRange()}, {api.ErrKind, noKind()}, {api.ErrForm, notInForm()}}
 	for i, kind := range kinds {
 		for _, one := range kind.changes {
-			n := knot()
+			n := sample.Knot()
 			one.do(&n)
 			mustRefuse(t, one.name, n, kind.fault)
 			for _, later := range kinds[i+1:] {
 				for _, two := range later.changes {
-					n := knot()
+					n := sample.Knot()
 					two.do(&n)
 					one.do(&n)
 					mustRefuse(t, one.name+" and "+two.name, n, kind.fault)
@@ -200,7 +180,7 @@ func TestB1NoGates(t *testing.T) {
 func TestB2Begin(t *testing.T) {
 	for _, regs := range []int{0, 1, 2, 3, 7, api.MaxRegs} {
 		for bits := 0; bits < 1<<regs; bits += 1 + bits/5 {
-			n := knot()
+			n := sample.Knot()
 			n.Gates[1] = api.Gate{Kind: api.Always}
 			n.Regs = nil
 			want := make([]int, regs)
@@ -232,7 +212,7 @@ func TestB2NeedsOfKnot(t *testing.T) {
 		for _, k := range c.needed {
 			want[k] = true
 		}
-		if is, e := Needs(knot(), c.l); e != api.OK || !slices.Equal(is, want) {
+		if is, e := Needs(sample.Knot(), c.l); e != api.OK || !slices.Equal(is, want) {
 			t.Errorf("of %v: %v %d", c.l, is, e)
 		}
 	}
@@ -241,7 +221,7 @@ func TestB2NeedsOfKnot(t *testing.T) {
 func TestB2NeedsOfNoGate(t *testing.T) {
 	for _, k := range []int{-1, 10, 11, math.MinInt, math.MaxInt} {
 		for _, l := range [][]int{{k}, {0, k}, {k, 0}, {1, k, 1}} {
-			if is, e := Needs(knot(), l); len(is) != 0 || e != api.ErrRange {
+			if is, e := Needs(sample.Knot(), l); len(is) != 0 || e != api.ErrRange {
 				t.Errorf("of %v: %v %d", l, is, e)
 			}
 		}
@@ -316,44 +296,22 @@ func TestB2NeedsOfGreatNets(t *testing.T) {
 	}
 }
 
-// spared: the net with room behind each of its lists, in which something lies.
-func spared(n api.Net) api.Net {
-	for k, g := range n.Gates {
-		n.Gates[k].Args = append(slices.Clone(g.Args), 77, 78)[:len(g.Args)]
-	}
-	n.Gates = append(slices.Clone(n.Gates), api.Gate{Kind: 77})[:len(n.Gates)]
-	n.Regs = append(slices.Clone(n.Regs), api.Store{Begin: true, Next: 77})[:len(n.Regs)]
-	n.Outs = append(slices.Clone(n.Outs), 77, 78)[:len(n.Outs)]
-	return n
-}
-
-// whole: the net with all that lies in the room behind its lists.
-func whole(n api.Net) api.Net {
-	n.Gates = slices.Clone(n.Gates[:len(n.Gates)+1])
-	for k, g := range n.Gates {
-		n.Gates[k].Args = slices.Clone(g.Args[:cap(g.Args)])
-	}
-	n.Regs = slices.Clone(n.Regs[:len(n.Regs)+1])
-	n.Outs = slices.Clone(n.Outs[:len(n.Outs)+2])
-	return n
-}
-
 func TestP2WhatIsHandedInIsOnlyRead(t *testing.T) {
-	n, l := spared(knot()), []int{4, 0, 77, 78}
-	was := whole(n)
+	n, l := sample.Spared(sample.Knot()), []int{4, 0, 77, 78}
+	was := sample.Whole(n)
 	if e := Check(n); e != api.OK {
 		t.Errorf("Check: %d", e)
 	}
 	Begin(n)
 	Needs(n, l[:2])
-	if !reflect.DeepEqual(was, whole(n)) || !slices.Equal(l, []int{4, 0, 77, 78}) {
-		t.Errorf("changed: %v %v", whole(n), l)
+	if !reflect.DeepEqual(was, sample.Whole(n)) || !slices.Equal(l, []int{4, 0, 77, 78}) {
+		t.Errorf("changed: %v %v", sample.Whole(n), l)
 	}
 }
 
 // What was answered once, and changed by the caller, is answered again as it was.
 func TestP2P3AnswersAreNew(t *testing.T) {
-	n := knot()
+	n := sample.Knot()
 	for range 2 {
 		begin, _ := Begin(n)
 		needs, _ := Needs(n, []int{9})
