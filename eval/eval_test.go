@@ -125,18 +125,7 @@ func must(g api.Gate, regs, ins, v []int) int {
 }
 
 // lists: all lists of so many values.
-func lists(count int) [][]int {
-	if count == 0 {
-		return [][]int{nil}
-	}
-	var all [][]int
-	for _, l := range lists(count - 1) {
-		for _, v := range []int{api.No, api.Yes, api.Open} {
-			all = append(all, append(slices.Clone(l), v))
-		}
-	}
-	return all
-}
+func lists(count int) [][]int { return sample.Rows(count, 3) }
 
 // One gate of each kind, of registers and inputs that have all there is: which it is of, and how many.
 func TestC1ValueOfEachKind(t *testing.T) {

@@ -1,4 +1,4 @@
-// Package row: rows of values, as inputs and registers have them, and the numbers that stand for them: bit k is 1, if value k is Yes.
+// Package row: rows of values, as inputs and registers have them, the numbers that stand for them (bit k is 1, if value k is Yes), and what is picked of them.
 package row
 
 import "linchpin/api"
@@ -26,11 +26,20 @@ func Number(values []int) int {
 	return number
 }
 
-// Pick: of each of those places the value.
-func Pick(values, places []int) []int {
-	picked := make([]int, len(places))
+// Pick: of each of those places what the list has there.
+func Pick[T any](list []T, places []int) []T {
+	picked := make([]T, len(places))
 	for i, k := range places {
-		picked[i] = values[k]
+		picked[i] = list[k]
 	}
 	return picked
+}
+
+// Nexts: of each register the gate whose value it takes.
+func Nexts(regs []api.Store) []int {
+	gates := make([]int, len(regs))
+	for i, r := range regs {
+		gates[i] = r.Next
+	}
+	return gates
 }

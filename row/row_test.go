@@ -39,3 +39,19 @@ func TestPick(t *testing.T) {
 		}
 	}
 }
+
+func TestPickOfWords(t *testing.T) {
+	words := []uint64{1 << 63, 5}
+	if l := Pick(words, []int{1, 0, 1}); !slices.Equal(l, []uint64{5, 1 << 63, 5}) {
+		t.Errorf("%v", l)
+	}
+}
+
+func TestNexts(t *testing.T) {
+	if l := Nexts(nil); len(l) != 0 {
+		t.Errorf("of none: %v", l)
+	}
+	if l := Nexts([]api.Store{{Next: 3}, {Begin: true, Next: 0}, {Next: 3}}); !slices.Equal(l, []int{3, 0, 3}) {
+		t.Errorf("%v", l)
+	}
+}

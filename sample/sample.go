@@ -28,6 +28,13 @@ func Knot() api.Net {
 	}
 }
 
+// Chain: the knot without its ring: 8 hangs on 9 alone, so that the order is 0 to 6, 9, 8, 7.
+func Chain() api.Net {
+	n := Knot()
+	n.Gates[8].Args = []int{9}
+	return n
+}
+
 // Loose: gates 1 and 2 hang on each other, and stay Open without input 0.
 func Loose() api.Net {
 	return api.Net{
@@ -89,6 +96,35 @@ func (d *Draw) Net(ins, regs, gates int) api.Net {
 	return n
 }
 
+// Ordered: a net in which nothing hangs on itself; where each gate stands in the order is drawn.
+func (d *Draw) Ordered(ins, regs, gates int) api.Net {
+	n := d.Net(ins, regs, gates)
+	var order []int
+	for k := range gates {
+		order = slices.Insert(order, d.Below(k+1), k)
+	}
+	for i, k := range order {
+		g := d.gate(ins, regs, max(1, i))
+		if i == 0 && len(g.Args) > 0 {
+			g = api.Gate{Kind: api.Always}
+		}
+		for j, ahead := range g.Args {
+			g.Args[j] = order[ahead]
+		}
+		n.Gates[k] = g
+	}
+	return n
+}
+
+// Words: so many words, any of them.
+func (d *Draw) Words(count int) []uint64 {
+	l := make([]uint64, count)
+	for k := range l {
+		l[k] = uint64(d.Below(1<<22))<<44 | uint64(d.Below(1<<22))<<22 | uint64(d.Below(1<<22))
+	}
+	return l
+}
+
 func (d *Draw) gate(ins, regs, gates int) api.Gate {
 	switch kind := d.Below(api.Not + 1); {
 	case kind == api.In && ins > 0:
@@ -101,6 +137,21 @@ func (d *Draw) gate(ins, regs, gates int) api.Gate {
 		return api.Gate{Kind: kind, Args: d.Values(1, gates)}
 	}
 	return api.Gate{Kind: d.Below(2)}
+}
+
+// Rows: all rows of so many values, each below n.
+func Rows(count, n int) [][]int {
+	rows := [][]int{nil}
+	for range count {
+		var longer [][]int
+		for _, l := range rows {
+			for v := range n {
+				longer = append(longer, append(slices.Clone(l), v))
+			}
+		}
+		rows = longer
+	}
+	return rows
 }
 
 // Spare: the list with room behind it, in which the given lies.
