@@ -1,4 +1,4 @@
-// Package sample: nets that the tests of several packages ask about. No layer leans on it.
+// Package sample: nets and programs that the tests of several packages ask about. No layer leans on it.
 package sample
 
 import (
@@ -64,6 +64,77 @@ func Faults() []Fault {
 	all := Knot()
 	all.Outs, all.Regs, all.Gates[4], all.Gates[9] = many.Outs, odd.Regs, kind.Gates[4], shape.Gates[9]
 	return []Fault{{many, api.ErrMany}, {odd, api.ErrRange}, {kind, api.ErrKind}, {shape, api.ErrForm}, {all, api.ErrMany}}
+}
+
+// Play: A, once x is there, beside a pause and B; a pause behind both; then C, if A was put out, else a halt.
+func Play() []api.Node {
+	return []api.Node{
+		{Kind: api.Seq},
+		{Kind: api.Par},
+		{Kind: api.Seq},
+		{Kind: api.Await, Sig: 0},
+		{Kind: api.Emit, Sig: 0},
+		{Kind: api.Seq},
+		{Kind: api.Pause},
+		{Kind: api.Emit, Sig: 1},
+		{Kind: api.Seq},
+		{Kind: api.Pause},
+		{Kind: api.Was, Sig: 0},
+		{Kind: api.Emit, Sig: 2},
+		{Kind: api.Halt},
+	}
+}
+
+// NoProgram is a list that is no program, and the error that it has.
+type NoProgram struct {
+	Nodes []api.Node
+	Err   api.Errno
+}
+
+// NoPrograms: of each kind of error the play with one thing changed, and with one of each kind that is told behind it.
+func NoPrograms() []NoProgram {
+	kind, sig, shape, all := Play(), Play(), Play(), Play()
+	kind[3].Kind = api.Was + 1
+	sig[0].Sig = 1
+	shape[3] = api.Node{Kind: api.Par}
+	all[0].Sig, all[3].Kind = 1, -1
+	all = append(all, all[12], all[12])
+	return []NoProgram{
+		{nil, api.ErrForm},
+		{Play()[:12], api.ErrForm},
+		{append(Play(), api.Node{}), api.ErrForm},
+		{shape, api.ErrForm},
+		{sig, api.ErrRange},
+		{append(sig, api.Node{}), api.ErrRange},
+		{kind, api.ErrKind},
+		{all[:14], api.ErrKind},
+		{append(Play(), api.Node{}, api.Node{}), api.ErrMany},
+		{all, api.ErrMany},
+	}
+}
+
+// Leaves: all nodes without parts.
+func Leaves() []api.Node {
+	l := []api.Node{{Kind: api.Nothing}, {Kind: api.Pause}, {Kind: api.Halt}}
+	for sig := range api.MaxOuts {
+		l = append(l, api.Node{Kind: api.Emit, Sig: sig})
+	}
+	for sig := range api.MaxIns {
+		l = append(l, api.Node{Kind: api.Await, Sig: sig})
+	}
+	return l
+}
+
+// Forks: all nodes with parts.
+func Forks() []api.Node {
+	l := []api.Node{{Kind: api.Seq}, {Kind: api.Par}}
+	for sig := range api.MaxIns {
+		l = append(l, api.Node{Kind: api.If, Sig: sig})
+	}
+	for sig := range api.MaxOuts {
+		l = append(l, api.Node{Kind: api.Was, Sig: sig})
+	}
+	return l
 }
 
 // Draw tells numbers that look as if they were drawn, the same each time.
@@ -137,6 +208,16 @@ func (d *Draw) gate(ins, regs, gates int) api.Gate {
 		return api.Gate{Kind: kind, Args: d.Values(1, gates)}
 	}
 	return api.Gate{Kind: d.Below(2)}
+}
+
+// Program: a program of so many forks, which has one leaf more.
+func (d *Draw) Program(forks int) []api.Node {
+	if forks == 0 {
+		leaves := Leaves()
+		return []api.Node{leaves[d.Below(len(leaves))]}
+	}
+	fork, left := Forks()[d.Below(len(Forks()))], d.Below(forks)
+	return slices.Concat([]api.Node{fork}, d.Program(left), d.Program(forks-1-left))
 }
 
 // Rows: all rows of so many values, each below n.
